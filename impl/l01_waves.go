@@ -51,6 +51,16 @@ func isFinite(x float32) bool { return math.Abs(float64(x)) <= math.MaxFloat32 }
 // isComplex reports whether z is a complex number.
 func isComplex(z complex64) bool { return isFinite(real(z)) && isFinite(imag(z)) }
 
+// areComplex reports whether all elements of a list are complex numbers.
+func areComplex(list []complex64) bool {
+	for _, z := range list {
+		if !isComplex(z) {
+			return false
+		}
+	}
+	return true
+}
+
 // isSide reports whether n is a side.
 func isSide(n int64) bool { return n >= 1 && n <= MaxSide && n&(n-1) == 0 }
 
@@ -86,6 +96,11 @@ func squareOf(z complex64) float32 {
 
 // conjugateOf returns the conjugate of a complex number.
 func conjugateOf(z complex64) complex64 { return complex(real(z), -imag(z)) }
+
+// multiplyByConjugate returns the product of the conjugate of p and q.
+func multiplyByConjugate(p complex64, q complex64) complex64 {
+	return multiplyComplex(conjugateOf(p), q)
+}
 
 // turnByI returns a complex number turned by i, which is exact.
 func turnByI(z complex64) complex64 { return complex(-imag(z), real(z)) }
@@ -171,20 +186,24 @@ func checkWaves(waves ...Wave) int64 {
 	return ErrNone
 }
 
+// finiteWave returns w and ErrNone, or ErrLimit if one of its cells is not finite.
+func finiteWave(w Wave) (Wave, int64) {
+	if !areComplex(w.Cells[:]) {
+		return Wave{}, ErrLimit
+	}
+	return w, ErrNone
+}
+
 // buildWave returns the wave of the side n with the given cell for each row y and column x, and
 // ErrNone, or ErrLimit if one of them is not finite.
 func buildWave(n int64, cell func(y int64, x int64) complex64) (Wave, int64) {
 	w := Wave{Side: n}
 	for y := range n {
 		for x := range n {
-			z := cell(y, x)
-			if !isComplex(z) {
-				return Wave{}, ErrLimit
-			}
-			w.Cells[n*y+x] = z
+			w.Cells[n*y+x] = cell(y, x)
 		}
 	}
-	return w, ErrNone
+	return finiteWave(w)
 }
 
 // FlatWave returns the wave of the side n with z in all cells, and ErrNone.
@@ -295,7 +314,7 @@ func InnerOfWaves(a Wave, b Wave) (complex64, int64) {
 	}
 	sum := complex64(0)
 	for i := range a.Side * a.Side {
-		sum += multiplyComplex(conjugateOf(a.Cells[i]), b.Cells[i])
+		sum += multiplyByConjugate(a.Cells[i], b.Cells[i])
 	}
 	// A part that is not finite stays so in all further sums.
 	if !isComplex(sum) {

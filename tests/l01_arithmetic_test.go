@@ -304,27 +304,33 @@ func TestInnerOfWavesErrors(t *testing.T) {
 	}
 }
 
-// The errors of functions of two waves: no wave before different sides before what is not finite.
-func TestErrorsOfPairs(t *testing.T) {
-	type pairFunction = func(impl.Wave, impl.Wave) (impl.Wave, int64)
-	for name, f := range map[string]pairFunction{"AddWaves": impl.AddWaves, "MultiplyWaves": impl.MultiplyWaves} {
-		for _, bad := range noWaves() {
-			for _, pair := range [][2]impl.Wave{{bad, flat(4, most)}, {flat(4, most), bad}, {bad, bad}} {
-				w, code := f(pair[0], pair[1])
-				wantNoWave(t, name+" of no wave", w, code, impl.ErrInvalid)
-			}
+type pairFunction = func(impl.Wave, impl.Wave) (impl.Wave, int64)
+
+// wantPairErrors checks the errors of a function of two waves, whose results are not finite for
+// great cells: no wave comes before different sides, and these before what is not finite.
+func wantPairErrors(t *testing.T, name string, f pairFunction) {
+	t.Helper()
+	for _, bad := range noWaves() {
+		for _, pair := range [][2]impl.Wave{{bad, flat(4, most)}, {flat(4, most), bad}, {bad, bad}} {
+			w, code := f(pair[0], pair[1])
+			wantNoWave(t, name+" of no wave", w, code, impl.ErrInvalid)
 		}
-		for _, a := range sides {
-			for _, b := range sides {
-				if a != b {
-					w, code := f(flat(a, most), flat(b, most))
-					wantNoWave(t, name+" of different sides", w, code, impl.ErrRange)
-				}
-			}
-		}
-		w, code := f(flat(4, most), flat(4, most))
-		wantNoWave(t, name+" of great cells", w, code, impl.ErrLimit)
 	}
+	for _, a := range sides {
+		for _, b := range sides {
+			if a != b {
+				w, code := f(flat(a, most), flat(b, most))
+				wantNoWave(t, name+" of different sides", w, code, impl.ErrRange)
+			}
+		}
+	}
+	w, code := f(flat(4, most), flat(4, most))
+	wantNoWave(t, name+" of great cells", w, code, impl.ErrLimit)
+}
+
+func TestErrorsOfPairs(t *testing.T) {
+	wantPairErrors(t, "AddWaves", impl.AddWaves)
+	wantPairErrors(t, "MultiplyWaves", impl.MultiplyWaves)
 }
 
 func TestScaleWaveErrors(t *testing.T) {
