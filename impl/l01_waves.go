@@ -94,6 +94,12 @@ func squareOf(z complex64) float32 {
 	return float32(a*a + b*b)
 }
 
+// scaleComplex returns r times a complex number. The conversions keep the products from being
+// joined with a sum that follows.
+func scaleComplex(r float32, z complex64) complex64 {
+	return complex(float32(r*real(z)), float32(r*imag(z)))
+}
+
 // conjugateOf returns the conjugate of a complex number.
 func conjugateOf(z complex64) complex64 { return complex(real(z), -imag(z)) }
 
