@@ -97,15 +97,16 @@ func TestNegativesAddUp(t *testing.T) {
 	}
 }
 
-// hologramResults are what the functions of chapter 5 make of two waves and two pictures.
-type hologramResults struct {
+// results are what many functions return.
+type results struct {
 	pictures []impl.Picture
 	waves    []impl.Wave
 	numbers  []float32
-	steps    []int64
+	integers []int64
 }
 
-func resultsOf(t *testing.T, o, r impl.Wave, p, q impl.Picture) (all hologramResults) {
+// hologramsOf returns what the functions of chapter 5 make of two waves and two pictures.
+func hologramsOf(t *testing.T, o, r impl.Wave, p, q impl.Picture) (all results) {
 	t.Helper()
 	addPicture := func(p impl.Picture, code int64) {
 		wantNone(t, "a function of pictures", code)
@@ -138,15 +139,30 @@ func resultsOf(t *testing.T, o, r impl.Wave, p, q impl.Picture) (all hologramRes
 	addWave(impl.ThresholdMask(p, 1.5))
 	addPicture(impl.InSteps(p, 0.7, 5))
 	addWave(impl.HalftoneOf(p, 2))
-	all.steps, code = impl.StepsOf(p, 0.7, 5)
+	all.integers, code = impl.StepsOf(p, 0.7, 5)
 	wantNone(t, "StepsOf", code)
 	return all
 }
 
-// isSame reports whether two lists of results are equal.
-func (all hologramResults) isSame(other hologramResults) bool {
+// isSame reports whether all results are equal to others.
+func (all results) isSame(other results) bool {
 	return slices.Equal(all.pictures, other.pictures) && slices.Equal(all.waves, other.waves) &&
-		slices.Equal(all.numbers, other.numbers) && slices.Equal(all.steps, other.steps)
+		slices.Equal(all.numbers, other.numbers) && slices.Equal(all.integers, other.integers)
+}
+
+// wantOnSide wants waves and pictures of a side whose further cells and levels are 0.
+func (all results) wantOnSide(t *testing.T, side int64) {
+	t.Helper()
+	for _, w := range all.waves {
+		if !impl.IsWave(w) || w.Side != side || slices.ContainsFunc(w.Cells[side*side:], func(z complex64) bool { return z != 0 }) {
+			t.Errorf("%v is no wave of the side %d", w, side)
+		}
+	}
+	for _, p := range all.pictures {
+		if !impl.IsPicture(p) || p.Side != side || slices.ContainsFunc(p.Levels[side*side:], func(x float32) bool { return x != 0 }) {
+			t.Errorf("%v is no picture of the side %d", p, side)
+		}
+	}
 }
 
 // Zeros of negative sign, also beyond the side, are zeros, and all further cells and levels of
@@ -157,24 +173,15 @@ func TestZerosOfNegativeSignInHolograms(t *testing.T) {
 		o, r := waveOf(side, 2-1i), flat(side, 0)
 		r.Cells[side*side-1] = 1
 		p, q := evenBut(side, 0, side*side-1, 3), n.picture(side, -2, 2)
-		want := resultsOf(t, o, r, p, q)
-		got := resultsOf(t, signed(o), signed(r), signedPicture(p), signedPicture(q))
+		want := hologramsOf(t, o, r, p, q)
+		got := hologramsOf(t, signed(o), signed(r), signedPicture(p), signedPicture(q))
 		if !got.isSame(want) {
 			t.Errorf("the side %d with zeros of negative sign: %v; want %v", side, got, want)
 		}
-		for _, all := range []hologramResults{got, want} {
-			for _, w := range all.waves {
-				if !impl.IsWave(w) || w.Side != side || slices.ContainsFunc(w.Cells[side*side:], func(z complex64) bool { return z != 0 }) {
-					t.Errorf("%v is no wave of the side %d", w, side)
-				}
-			}
-			for _, p := range all.pictures {
-				if !impl.IsPicture(p) || p.Side != side || slices.ContainsFunc(p.Levels[side*side:], func(x float32) bool { return x != 0 }) {
-					t.Errorf("%v is no picture of the side %d", p, side)
-				}
-			}
-			if len(all.steps) != int(side*side) {
-				t.Errorf("%v are not the steps of the side %d", all.steps, side)
+		for _, all := range []results{got, want} {
+			all.wantOnSide(t, side)
+			if len(all.integers) != int(side*side) {
+				t.Errorf("%v are not the steps of the side %d", all.integers, side)
 			}
 		}
 	}
@@ -186,22 +193,22 @@ func TestHologramsKeepNothing(t *testing.T) {
 	for _, side := range sides {
 		o, r, p, q := n.wave(side, -1, 1), n.wave(side, -1, 1), n.picture(side, -1, 1), n.picture(side, -1, 1)
 		p.Levels[0] = 1
-		first := resultsOf(t, o, r, p, q)
-		other := resultsOf(t, r, o, p, even(side, 2))
+		first := hologramsOf(t, o, r, p, q)
+		other := hologramsOf(t, r, o, p, even(side, 2))
 		if first.isSame(other) {
 			t.Errorf("the results of the side %d do not depend on the arguments", side)
 		}
 		// Something that is not finite leaves nothing behind either.
 		wantHalftone(t, even(side, most), most, impl.Wave{}, impl.ErrLimit)
 		wantAdded(t, even(side, most), even(side, most), impl.Picture{}, impl.ErrLimit)
-		kept := slices.Clone(first.steps)
+		kept := slices.Clone(first.integers)
 		steps, _ := impl.StepsOf(p, 0.7, 5)
 		whole := steps[:cap(steps)]
 		for i := range whole {
 			whole[i] = -7
 		}
-		second := resultsOf(t, o, r, p, q)
-		if !second.isSame(first) || !slices.Equal(first.steps, kept) {
+		second := hologramsOf(t, o, r, p, q)
+		if !second.isSame(first) || !slices.Equal(first.integers, kept) {
 			t.Errorf("the results of the side %d are changed", side)
 		}
 	}
