@@ -86,7 +86,6 @@ func (c *calculation) share(x, y float32, isDefined bool) (float32, int64) {
 func (c *calculation) degree(s light, p, q int64) (float32, int64) {
 	roots := c.times(exactRoot(c.levelOf(s, p)), exactRoot(c.levelOf(s, q)))
 	isDefined := roots != 0 || c.limit
-	c.intensity(s)
 	return c.share(c.magnitude(c.mutual(s, p, q)), roots, isDefined)
 }
 
@@ -94,16 +93,14 @@ func (c *calculation) degree(s light, p, q int64) (float32, int64) {
 func (c *calculation) visibility(s light, p, q int64) (float32, int64) {
 	sum := c.plus(c.levelOf(s, p), c.levelOf(s, q))
 	isDefined := sum != 0 || c.limit
-	c.intensity(s)
 	return c.share(c.times(2, c.magnitude(c.mutual(s, p, q))), sum, isDefined)
 }
 
 // fringesAt returns the fringes of a source at two cells, and the code that goes with them.
 func (c *calculation) fringesAt(s light, p, q int64) ([]float32, int64) {
-	intensity, mutual := c.intensity(s), c.mutual(s, p, q)
+	sum, mutual := c.plus(c.levelOf(s, p), c.levelOf(s, q)), c.mutual(s, p, q)
 	var fringes []float32
 	for _, phase := range phases {
-		sum := c.plus(intensity.Levels[p], intensity.Levels[q])
 		fringes = append(fringes, c.plus(sum, c.times(2, real(c.product(mutual, phase)))))
 	}
 	if c.limit {

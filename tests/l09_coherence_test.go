@@ -250,41 +250,29 @@ func TestLimitsOfCoherence(t *testing.T) {
 	}
 }
 
-// A level that is not finite is ErrLimit, at p, at q, and also at a cell whose level is not asked for
-// in the end; but what is not defined comes first.
+// A level that is not finite is ErrLimit at p and at q, beside whatever level the other one has: there
+// is no product with it, nor a sum, and so none that is 0. (Levels of other cells are in
+// l09_cells_test.go.)
 func TestLimitsOfIntensities(t *testing.T) {
-	const none, state, limit = impl.ErrNone, impl.ErrState, impl.ErrLimit
-	for _, side := range sides[1:] {
-		last := side*side - 1
+	const none, limit = impl.ErrNone, impl.ErrLimit
+	for _, side := range sides {
 		for place := range side * side {
-			for _, weight := range []float32{0, zeroBelow, least, 1, most} {
-				for wave := range 3 {
+			for _, cell := range []int64{0, side*side - 1, place} {
+				for _, weight := range []float32{0, zeroBelow, least, 1, most} {
 					s := light{slices.Repeat([]impl.Wave{flat(side, 1)}, 3), []float32{1, 1, 1}}
-					s.list[wave], s.weights[wave] = waveBut(side, 0, place, 0x1p64), weight
-					p, q := int64(0), last
-					_, degree := impl.DegreeOf(s.list, s.weights, p, q)
-					_, visibility := impl.VisibilityOf(s.list, s.weights, p, q)
-					fringes, code := impl.FringesOf(s.list, s.weights, p, q)
-					if degree != limit || visibility != limit || code != limit || len(fringes) > 0 {
-						t.Errorf("the side %d with a great cell at %d, weighted by %v: %d, %d, %d", side, place, weight, degree, visibility, code)
-					}
+					s.list[place%3], s.weights[place%3] = waveBut(side, 0, place, 0x1p64), weight
+					wantCoherenceCodes(t, s, place, cell, limit, limit, limit)
+				}
+				// A level is not finite only with its weight, or only as a sum.
+				great := waveBut(side, 0, place, 0x1p30)
+				wantCoherenceCodes(t, light{[]impl.Wave{great}, []float32{0x1p68}}, place, cell, limit, limit, limit)
+				sum := light{slices.Repeat([]impl.Wave{waveBut(side, 0, place, 0x1p63)}, 4), []float32{1, 1, 1, 1}}
+				wantCoherenceCodes(t, sum, place, cell, limit, limit, limit)
+				if cell != place {
+					wantVisibility(t, light{[]impl.Wave{great}, []float32{0x1p67}}, place, cell, 0, none)
+					wantVisibility(t, light{sum.list[:3], sum.weights[:3]}, place, cell, 0, none)
 				}
 			}
 		}
-		// A level is not finite only with its weight, or only as a sum.
-		wantCoherenceCodes(t, light{[]impl.Wave{waveBut(side, 1, 1, 0x1p30)}, []float32{0x1p68}}, 0, last, limit, limit, limit)
-		wantCoherenceCodes(t, light{[]impl.Wave{waveBut(side, 1, 1, 0x1p30)}, []float32{0x1p50}}, 0, last, none, none, none)
-		sum := light{slices.Repeat([]impl.Wave{waveBut(side, 1, 1, 0x1p63)}, 4), []float32{1, 1, 1, 1}}
-		wantCoherenceCodes(t, sum, 0, last, limit, limit, limit)
-		wantCoherenceCodes(t, light{sum.list[:3], sum.weights[:3]}, 0, last, none, none, none)
-		// Nothing is to be seen at the cells, or at one of them.
-		dark := light{[]impl.Wave{waveBut(side, 0, 1, 0x1p64)}, []float32{1}}
-		wantCoherenceCodes(t, dark, 0, last, state, state, limit)
-		wantCoherenceCodes(t, dark, 0, 0, state, state, limit)
-		dark.list[0].Cells[0] = 1
-		wantCoherenceCodes(t, dark, 0, last, state, limit, limit)
-		// The level of one of the cells itself is not finite, so that there is no product, nor a sum.
-		wantCoherenceCodes(t, dark, 1, last, limit, limit, limit)
-		wantCoherenceCodes(t, dark, 1, 1, limit, limit, limit)
 	}
 }
