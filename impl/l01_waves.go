@@ -61,8 +61,11 @@ func areComplex(list []complex64) bool {
 	return true
 }
 
+// isPowerOfTwo reports whether n is a power of two in 1..limit.
+func isPowerOfTwo(n int64, limit int64) bool { return n >= 1 && n <= limit && n&(n-1) == 0 }
+
 // isSide reports whether n is a side.
-func isSide(n int64) bool { return n >= 1 && n <= MaxSide && n&(n-1) == 0 }
+func isSide(n int64) bool { return isPowerOfTwo(n, MaxSide) }
 
 // isWithin reports whether k is in -limit..limit.
 func isWithin(k int64, limit int64) bool { return k >= -limit && k <= limit }
