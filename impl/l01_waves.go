@@ -103,6 +103,9 @@ func scaleComplex(r float32, z complex64) complex64 {
 	return complex(float32(r*real(z)), float32(r*imag(z)))
 }
 
+// divideComplex returns a complex number with both parts divided by r.
+func divideComplex(z complex64, r float32) complex64 { return complex(real(z)/r, imag(z)/r) }
+
 // conjugateOf returns the conjugate of a complex number.
 func conjugateOf(z complex64) complex64 { return complex(real(z), -imag(z)) }
 
